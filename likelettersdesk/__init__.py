@@ -1,0 +1,1 @@
+"""Letters and their likes."""

@@ -1,0 +1,94 @@
+"""The calls on letters, fonts and pages.
+
+Each call gives back one list: the number that is answered, then what else is answered.
+A refusal is -2 alone.
+"""
+
+
+def is_size(number):
+    """Pages have from 1 to 256 columns and rows."""
+    return 1 <= number <= 256
+
+
+def count_ones(number):
+    """How many bits of the number are 1."""
+    ones = 0
+    while number > 0:
+        # This clears the lowest bit that is 1, so only such bits cost a turn.
+        number = number & (number - 1)
+        ones += 1
+    return ones
+
+
+def word_of(bits):
+    """The word whose bit i is bits[i]."""
+    word = 0
+    for i, bit in enumerate(bits):
+        word = word | (bit << i)
+    return word
+
+
+def spans(size, k):
+    """For each of k parts of size columns (or rows): the first that goes there, and the one behind the last."""
+    parts = []
+    for i in range(k):
+        first = i * size // k
+        # With fewer columns than parts both quotients can be the same, but one column goes there at least.
+        parts.append((first, max((i + 1) * size // k, first + 1)))
+    return parts
+
+
+def page_rows(w, h, x):
+    """Each row of the page as one number, column c being bit c."""
+    length = (w + 31) // 32
+    rows = []
+    for j in range(h):
+        row = 0
+        for i in range(length):
+            row = row | (x[j * length + i] << (32 * i))
+        rows.append(row)
+    return rows
+
+
+def count_box(rows, left, right):
+    """How many dots these rows have from column left up to ahead of right, and how many places."""
+    mask = (1 << (right - left)) - 1
+    dots = 0
+    for row in rows:
+        dots += count_ones((row >> left) & mask)
+    return (dots, len(rows) * (right - left))
+
+
+def count_boxes(w, h, x, k):
+    """The page as k rows of k boxes: of each box how many dots and how many places go there."""
+    rows = page_rows(w, h, x)
+    columns = spans(w, k)
+    boxes = []
+    for top, bottom in spans(h, k):
+        boxes.append([count_box(rows[top:bottom], left, right) for left, right in columns])
+    return boxes
+
+
+def half_at_least(part, whole):
+    """1 if the part is half of the whole at least, else 0."""
+    return 1 if 2 * part >= whole else 0
+
+
+def lt_fit(w, h, x):
+    """The page as a letter: 0 and sixteen words, or -2."""
+    if not is_size(w) or not is_size(h):
+        return [-2]
+    answer = [0]
+    for boxes in count_boxes(w, h, x, 16):
+        answer.append(word_of([half_at_least(dots, places) for dots, places in boxes]))
+    return answer
+
+
+def lt_greys(w, h, x):
+    """The page as eight by eight greys, row by row: 0 and 64 bytes, or -2."""
+    if not is_size(w) or not is_size(h):
+        return [-2]
+    answer = [0]
+    for boxes in count_boxes(w, h, x, 8):
+        answer.extend([(510 * dots + places) // (2 * places) for dots, places in boxes])
+    return answer
