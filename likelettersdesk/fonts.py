@@ -6,7 +6,7 @@ A refusal is -2 alone.
 
 
 def is_size(number):
-    """Pages have from 1 to 256 columns and rows."""
+    """Pages have from 1 to 256 columns and rows, fonts from 1 to 256 letters."""
     return 1 <= number <= 256
 
 
@@ -92,3 +92,37 @@ def lt_greys(w, h, x):
     for boxes in count_boxes(w, h, x, 8):
         answer.extend([(510 * dots + places) // (2 * places) for dots, places in boxes])
     return answer
+
+
+def count_runs(word):
+    """How many runs of bits that are 1 the word has."""
+    # A run begins where a bit is 1 and the one ahead of it is not.
+    return count_ones(word & ~(word << 1))
+
+
+def column_words(a):
+    """Each column of the letter as a word, row j being bit j."""
+    return [word_of([(row >> i) & 1 for row in a]) for i in range(16)]
+
+
+def lt_crossings(a):
+    """Of each row of the letter, then of each column, how many runs of dots: 0 and 32 numbers."""
+    return [0] + [count_runs(word) for word in a + column_words(a)]
+
+
+def letters_of(font):
+    """The letters of a font, each a list of sixteen words."""
+    return [font[start:start + 16] for start in range(0, len(font), 16)]
+
+
+def how_far(a, b):
+    """At how many places just one of two letters has a dot."""
+    return sum([count_ones(row ^ other) for row, other in zip(a, b)])
+
+
+def lt_apart(font, a):
+    """How far each letter of the font is from a: 0 and n numbers, or -2."""
+    letters = letters_of(font)
+    if not is_size(len(letters)):
+        return [-2]
+    return [0] + [how_far(letter, a) for letter in letters]

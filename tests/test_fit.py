@@ -1,26 +1,7 @@
 import unittest
 
 from likelettersdesk.fonts import lt_fit
-from tests.drawing import Locked, full_page, has_dot, letter, page, places, scattered_page
-
-KEY = letter([
-    "................",
-    "..####..........",
-    ".#....#.........",
-    "#......#........",
-    "#......#########",
-    "#......#..#.#.#.",
-    ".#....#.....#.#.",
-    "..####..........",
-    "................",
-    "#..............#",
-    ".#............#.",
-    "..#..........#..",
-    "...#........#...",
-    "################",
-    ".#.#.#.#.#.#.#.#",
-    "#.#.#.#.#.#.#.#.",
-])
+from tests.drawing import KEY, Locked, full_page, has_dot, page, places, scattered_page
 
 
 def fit_by_places(w, h, x):
