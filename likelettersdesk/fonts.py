@@ -126,3 +126,51 @@ def lt_apart(font, a):
     if not is_size(len(letters)):
         return [-2]
     return [0] + [how_far(letter, a) for letter in letters]
+
+
+def without(a, c):
+    """The letter a without its dots where c has one."""
+    return [row & ~hidden for row, hidden in zip(a, c)]
+
+
+def lt_but(font, c, a):
+    """How far each letter of the font is from a where c has no dot: 0 and n numbers, or -2."""
+    letters = letters_of(font)
+    if not is_size(len(letters)):
+        return [-2]
+    seen = without(a, c)
+    return [0] + [how_far(without(letter, c), seen) for letter in letters]
+
+
+def move_row(row, dx):
+    """The row moved by dx columns, dots that leave being lost."""
+    return (row << dx) & 65535 if dx >= 0 else row >> -dx
+
+
+def move(a, dx, dy):
+    """The letter moved by dx columns and dy rows, white coming in."""
+    rows = [move_row(row, dx) for row in a]
+    white = [0] * abs(dy)
+    # White comes in from above if dy is above 0, else from below; the rows at the other end leave.
+    return (white + rows)[:16] if dy >= 0 else (rows + white)[-16:]
+
+
+def moves(a, s):
+    """The letter moved by all dx, dy from -s to s."""
+    moved = []
+    for dy in range(-s, s + 1):
+        moved.extend([move(a, dx, dy) for dx in range(-s, s + 1)])
+    return moved
+
+
+def lt_nearest(s, names, font, a):
+    """The letter nearest to a, which is moved by up to s: 0, its number, how far, how far another name; or -2."""
+    letters = letters_of(font)
+    if s > 4 or not is_size(len(letters)):
+        return [-2]
+    moved = moves(a, s)
+    distances = [min([how_far(letter, one) for one in moved]) for letter in letters]
+    least = min(distances)
+    nearest = distances.index(least)
+    others = [distance for distance, name in zip(distances, names) if name != names[nearest]]
+    return [0, nearest, least, min(others, default=257)]

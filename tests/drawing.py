@@ -29,6 +29,14 @@ def letter(rows):
 
 EMPTY = [0] * 16
 FULL = [65535] * 16
+RING = letter(["................"] * 3 + [
+    ".....####.......",
+    "....#....#......",
+    "...#......#.....",
+    "...#......#.....",
+    "....#....#......",
+    ".....####.......",
+] + ["................"] * 7)
 KEY = letter([
     "................",
     "..####..........",
@@ -76,3 +84,18 @@ def places(w, h, k, i, j):
     columns = [c for c in range(w) if i * w // k <= c < (i + 1) * w // k] or [i * w // k]
     rows = [r for r in range(h) if j * h // k <= r < (j + 1) * h // k] or [j * h // k]
     return [(c, r) for r in rows for c in columns]
+
+
+def dots_of(a):
+    """The (column, row) places where a letter has a dot."""
+    return {(i, j) for j in range(16) for i in range(16) if a[j] >> i & 1}
+
+
+def letter_with(dots):
+    """The letter that has dots at these (column, row) places alone."""
+    return [sum(1 << i for i in range(16) if (i, j) in dots) for j in range(16)]
+
+
+def cut(font):
+    """The letters of a font, one by one."""
+    return [font[start:start + 16] for start in range(0, len(font), 16)]

@@ -1,24 +1,11 @@
 import unittest
 
 from likelettersdesk.fonts import lt_apart
-from tests.drawing import EMPTY, FULL, Locked, letter, scattered
-
-RING = letter(["................"] * 3 + [
-    ".....####.......",
-    "....#....#......",
-    "...#......#.....",
-    "...#......#.....",
-    "....#....#......",
-    ".....####.......",
-] + ["................"] * 7)
+from tests.drawing import EMPTY, FULL, RING, Locked, cut, dots_of, scattered
 
 
 def apart_by_places(font, a):
-    answer = [0]
-    for start in range(0, len(font), 16):
-        one = font[start:start + 16]
-        answer.append(sum(one[j] >> i & 1 != a[j] >> i & 1 for j in range(16) for i in range(16)))
-    return answer
+    return [0] + [len(dots_of(one) ^ dots_of(a)) for one in cut(font)]
 
 
 class OrdinaryLetters(unittest.TestCase):
