@@ -174,3 +174,44 @@ def lt_nearest(s, names, font, a):
     nearest = distances.index(least)
     others = [distance for distance, name in zip(distances, names) if name != names[nearest]]
     return [0, nearest, least, min(others, default=257)]
+
+
+def dot_counts(letters):
+    """Of each row, column by column, how many of the letters have a dot there."""
+    counts = []
+    for j in range(16):
+        rows = [letter[j] for letter in letters]
+        counts.append([sum([(row >> i) & 1 for row in rows]) for i in range(16)])
+    return counts
+
+
+def lt_common(font):
+    """The letter with a dot where half of the font's letters at least have one: 0 and sixteen words, or -2."""
+    letters = letters_of(font)
+    if not is_size(len(letters)):
+        return [-2]
+    answer = [0]
+    for counts in dot_counts(letters):
+        answer.append(word_of([half_at_least(dots, len(letters)) for dots in counts]))
+    return answer
+
+
+def how_far_together(letter, counts, n):
+    """How far the letter is from n letters, together, of which so many have a dot at each place."""
+    far = 0
+    for row, dots_of_row in zip(letter, counts):
+        for i, dots in enumerate(dots_of_row):
+            # A dot is alone against those letters that have none there, a white place against those that have one.
+            far += n - dots if (row >> i) & 1 else dots
+    return far
+
+
+def lt_middle(font):
+    """The letter least far from all of the font's together: 0, its number, how far together; or -2."""
+    letters = letters_of(font)
+    if not is_size(len(letters)):
+        return [-2]
+    counts = dot_counts(letters)
+    distances = [how_far_together(letter, counts, len(letters)) for letter in letters]
+    least = min(distances)
+    return [0, distances.index(least), least]
