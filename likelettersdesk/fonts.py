@@ -110,9 +110,14 @@ def lt_crossings(a):
     return [0] + [count_runs(word) for word in a + column_words(a)]
 
 
+def parts_of(numbers, length):
+    """The flat list as lists of so many numbers each, in turn."""
+    return [numbers[start:start + length] for start in range(0, len(numbers), length)]
+
+
 def letters_of(font):
     """The letters of a font, each a list of sixteen words."""
-    return [font[start:start + 16] for start in range(0, len(font), 16)]
+    return parts_of(font, 16)
 
 
 def how_far(a, b):
@@ -215,3 +220,49 @@ def lt_middle(font):
     distances = [how_far_together(letter, counts, len(letters)) for letter in letters]
     least = min(distances)
     return [0, distances.index(least), least]
+
+
+def mark_group(d, letters, least, first):
+    """Tells first as the least number of each letter that one comes to from there, by steps no farther than d."""
+    least[first] = first
+    reached = [first]
+    while len(reached) > 0:
+        letter = letters[reached.pop()]
+        for number, other in enumerate(letters):
+            if least[number] is None and how_far(letter, other) <= d:
+                least[number] = first
+                reached.append(number)
+
+
+def lt_groups(d, font):
+    """The groups of letters that one comes to from each other: how many, then of each letter the least; or -2."""
+    letters = letters_of(font)
+    if not is_size(len(letters)):
+        return [-2]
+    least = [None] * len(letters)
+    groups = 0
+    for number in range(len(letters)):
+        # Each step leads back as well, so a letter that no lesser one has led to is the least of its group.
+        if least[number] is None:
+            mark_group(d, letters, least, number)
+            groups += 1
+    return [groups] + least
+
+
+def with_sign(number, size):
+    """The number as one with a sign: from half the size on it is less the size."""
+    return number - size if 2 * number >= size else number
+
+
+def score(weights, begin, x):
+    """The sum of x's numbers, each times its weight, and the word to begin with."""
+    products = [with_sign(weight, 256) * number for weight, number in zip(weights, x)]
+    return sum(products) + with_sign(begin, 2 ** 32)
+
+
+def lt_score(w, start, x):
+    """The sum of each row of weights: the greatest one's number, then all as words modulo 2^32; or -2."""
+    if not is_size(len(start)):
+        return [-2]
+    scores = [score(weights, begin, x) for weights, begin in zip(parts_of(w, 64), start)]
+    return [scores.index(max(scores))] + [number % 2 ** 32 for number in scores]

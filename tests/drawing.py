@@ -99,3 +99,12 @@ def letter_with(dots):
 def cut(font):
     """The letters of a font, one by one."""
     return [font[start:start + 16] for start in range(0, len(font), 16)]
+
+
+def bar(length):
+    """A letter with so many dots, row by row: two bars are as far apart as their lengths."""
+    return letter_with({(number % 16, number // 16) for number in range(length)})
+
+
+def bars(*lengths):
+    return [word for length in lengths for word in bar(length)]

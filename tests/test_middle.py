@@ -1,7 +1,7 @@
 import unittest
 
 from likelettersdesk.fonts import lt_apart, lt_common, lt_middle
-from tests.drawing import EMPTY, FULL, KEY, RING, Locked, cut, dots_of, letter_with, scattered
+from tests.drawing import EMPTY, FULL, KEY, RING, Locked, bars, cut, dots_of, letter_with, scattered
 
 
 def middle_by_places(font):
@@ -9,15 +9,6 @@ def middle_by_places(font):
     far = [sum(len(one ^ other) for other in letters) for one in letters]
     first = min(range(len(far)), key=lambda number: (far[number], number))
     return [0, first, far[first]]
-
-
-def bar(length):
-    """A letter with so many dots, row by row."""
-    return letter_with({(number % 16, number // 16) for number in range(length)})
-
-
-def bars(*lengths):
-    return [word for length in lengths for word in bar(length)]
 
 
 class OrdinaryFonts(unittest.TestCase):
