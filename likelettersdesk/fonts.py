@@ -266,3 +266,29 @@ def lt_score(w, start, x):
         return [-2]
     scores = [score(weights, begin, x) for weights, begin in zip(parts_of(w, 64), start)]
     return [scores.index(max(scores))] + [number % 2 ** 32 for number in scores]
+
+
+def squares(row, x):
+    """The sum of the squares of the differences of two rows of numbers."""
+    return sum([(one - other) ** 2 for one, other in zip(row, x)])
+
+
+def nearest_numbers(k, rows, x):
+    """The numbers of those k rows that are nearest to x, nearest first, of as near ones the lesser number."""
+    pairs = sorted([(squares(row, x), number) for number, row in enumerate(rows)])
+    return [number for far, number in pairs[:k]]
+
+
+def lt_vote(k, names, l, x):
+    """The name that most of the k rows nearest to x have: 0, the name, how many have it; or -2."""
+    if not is_size(len(names)) or not 1 <= k <= len(names):
+        return [-2]
+    votes = [names[number] for number in nearest_numbers(k, parts_of(l, 64), x)]
+    counts = [votes.count(name) for name in votes]
+    most = max(counts)
+    return [0, votes[counts.index(most)], most]
+
+
+def lt_apart1(a, b):
+    """In how many bits two words differ: one number alone."""
+    return [count_ones(a ^ b)]
